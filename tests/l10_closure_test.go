@@ -287,11 +287,7 @@ func TestAreDeps(t *testing.T) {
 
 // TestClosuresOfNoDeps has dependencies that are not valid at every place of a list, and too many.
 func TestClosuresOfNoDeps(t *testing.T) {
-	for n := 1; n <= impl.MaxColumns; n++ {
-		for _, l := range badLists(n) {
-			checkNoMeaning(t, n, l)
-		}
-	}
+	checkBadDeps(t, checkNoMeaning)
 	// A dependency that is beyond n columns is one of more.
 	for n := 1; n <= impl.MaxColumns; n++ {
 		for _, d := range depsOf(5) {
@@ -377,36 +373,51 @@ func TestClosureOfSets(t *testing.T) {
 	}
 }
 
-// TestClosuresOfFewDeps tries all lists of at most three dependencies over at most three columns, for all sets and dependencies.
-func TestClosuresOfFewDeps(t *testing.T) {
-	for n := 1; n <= 3; n++ {
-		for _, l := range shortDeps(n, 3) {
-			checkMeaning(t, n, l)
-		}
-	}
-}
-
-// TestClosuresOfOneDep tries every dependency over every number of columns.
-func TestClosuresOfOneDep(t *testing.T) {
+// checkFewDeps checks all lists of at most three dependencies over at most three columns, and of one over every number of columns.
+func checkFewDeps(t *testing.T, check func(t *testing.T, n int, l []impl.Dep)) {
+	t.Helper()
 	for n := 1; n <= impl.MaxColumns; n++ {
-		for _, l := range shortDeps(n, 1) {
-			checkMeaning(t, n, l)
+		length := 1
+		if n <= 3 {
+			length = 3
+		}
+		for _, l := range shortDeps(n, length) {
+			check(t, n, l)
 		}
 	}
 }
 
-// TestClosuresOfManyDeps has lists of every length over four and five columns.
-func TestClosuresOfManyDeps(t *testing.T) {
-	r := rand.New(rand.NewSource(24))
+// checkManyDeps checks lists of every length over four and five columns.
+func checkManyDeps(t *testing.T, seed int64, check func(t *testing.T, n int, l []impl.Dep)) {
+	t.Helper()
+	r := rand.New(rand.NewSource(seed))
 	for length := range impl.MaxDeps + 1 {
 		for range 20 {
 			n := 4 + r.Intn(2)
-			checkMeaning(t, n, longDeps(r, n, length))
+			check(t, n, longDeps(r, n, length))
 		}
 	}
 	for _, l := range meaningLists() {
-		checkMeaning(t, 5, l)
+		check(t, 5, l)
 	}
+}
+
+// checkBadDeps checks lists of every number of columns that are not valid.
+func checkBadDeps(t *testing.T, check func(t *testing.T, n int, l []impl.Dep)) {
+	t.Helper()
+	for n := 1; n <= impl.MaxColumns; n++ {
+		for _, l := range badLists(n) {
+			check(t, n, l)
+		}
+	}
+}
+
+func TestClosuresOfFewDeps(t *testing.T) {
+	checkFewDeps(t, checkMeaning)
+}
+
+func TestClosuresOfManyDeps(t *testing.T) {
+	checkManyDeps(t, 24, checkMeaning)
 }
 
 // TestClosuresOfChains has each chain through all columns, in every order of its dependencies.
