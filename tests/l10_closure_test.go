@@ -273,13 +273,6 @@ func TestAreDeps(t *testing.T) {
 			checkAreDeps(t, n, []impl.Dep{d}, valid && d.Left < 1<<n && d.Right < n)
 		}
 	}
-	for _, n := range badColumnCounts {
-		for _, l := range [][]impl.Dep{nil, {}, {{}}, {{Left: 1}}, {{Left: -1, Right: -1}}} {
-			checkNoMeaning(t, n, l)
-		}
-	}
-	checkNoMeaning(t, 0, nil)
-	checkNoMeaning(t, 0, []impl.Dep{{}})
 	if impl.MaxDeps != 20 {
 		t.Errorf("MaxDeps = %d, want 20", impl.MaxDeps)
 	}
@@ -402,11 +395,19 @@ func checkManyDeps(t *testing.T, seed int64, check func(t *testing.T, n int, l [
 	}
 }
 
-// checkBadDeps checks lists of every number of columns that are not valid.
+// checkBadDeps checks lists of every number of columns that are not valid, also some that are valid for more columns, and numbers of columns that are not valid.
 func checkBadDeps(t *testing.T, check func(t *testing.T, n int, l []impl.Dep)) {
 	t.Helper()
 	for n := 1; n <= impl.MaxColumns; n++ {
 		for _, l := range badLists(n) {
+			check(t, n, l)
+		}
+	}
+	for n := -1; n <= 3; n++ {
+		check(t, n, depsIn("A>B AB>C D>A"))
+	}
+	for _, n := range append([]int{0}, badColumnCounts...) {
+		for _, l := range [][]impl.Dep{nil, {}, {{}}, {{Left: 1}}, {{Left: -1, Right: -1}}} {
 			check(t, n, l)
 		}
 	}
